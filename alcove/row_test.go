@@ -1,0 +1,125 @@
+package alcove
+
+import (
+	"cmp"
+	"math/rand"
+	"slices"
+	"testing"
+
+	"alcove/api"
+	"alcove/skip"
+	"alcove/tree"
+)
+
+// TestRows: both engines, by place, against a list; keys are even, so that odd ones are sought in vain.
+func TestRows(t *testing.T) {
+	type item struct{ k, v int }
+	for name, items := range map[string]row[int, int]{"tree": tree.New[int, int](), "skip": skip.New[int, int]()} {
+		chance := rand.New(rand.NewSource(1))
+		var want []item
+		for step := range 4000 {
+			k := 2 * chance.Intn(300)
+			i, there := slices.BinarySearchFunc(want, k, func(a item, k int) int { return cmp.Compare(a.k, k) })
+			if got, same := items.Find(func(key int) int { return cmp.Compare(k, key) }); got != i || same != there {
+				t.Fatalf("%s: Find(%d) = %d, %v, want %d, %v", name, k, got, same, i, there)
+			}
+			switch {
+			case !there:
+				items.Insert(i, k, step)
+				want = slices.Insert(want, i, item{k, step})
+			case step%3 == 0:
+				items.Set(i, step)
+				want[i].v = step
+			default:
+				items.Remove(i)
+				want = slices.Delete(want, i, i+1)
+			}
+			if items.Len() != len(want) {
+				t.Fatalf("%s: Len %d, want %d", name, items.Len(), len(want))
+			}
+		}
+		for i, w := range want {
+			if k, v := items.At(i); k != w.k || v != w.v {
+				t.Errorf("%s: At(%d) = %d, %d, want %d, %d", name, i, k, v, w.k, w.v)
+			}
+			if got, same := items.Find(func(key int) int { return cmp.Compare(w.k+1, key) }); got != i+1 || same {
+				t.Errorf("%s: Find(%d) = %d, %v, want %d, false", name, w.k+1, got, same, i+1)
+			}
+		}
+	}
+}
+
+// counting is the rule of numbers, with a count of its own.
+type counting struct{ calls *int }
+
+func (c counting) Compare(a, b int) int {
+	*c.calls++
+	return cmp.Compare(a, b)
+}
+
+// TestComparedIsWhatWasCompared: neither more nor less is told than was done, at any call.
+func TestComparedIsWhatWasCompared(t *testing.T) {
+	for engine := range 2 {
+		calls := 0
+		m, _ := New[int, int](Order[int]{rule: counting{&calls}}, engine)
+		chance := rand.New(rand.NewSource(2))
+		for step := range 3000 {
+			k := chance.Intn(600)
+			switch step % 7 {
+			case 0:
+				m.Get(k)
+			case 1:
+				m.Rank(k)
+			case 2:
+				m.Floor(k)
+			case 3:
+				m.Ceiling(k)
+			case 4:
+				m.Delete(k)
+			default:
+				m.Put(k, step)
+			}
+			m.At(k)
+			m.Len()
+			if m.Compared() != calls {
+				t.Fatalf("P7: engine %d, step %d: Compared %d, want %d", engine, step, m.Compared(), calls)
+			}
+		}
+	}
+}
+
+// TestOneOrder: orders are told apart by the words that made them.
+func TestOneOrder(t *testing.T) {
+	orders := []Order[string]{Text(), Folded(), Turned(Text()), Turned(Folded())}
+	again := []Order[string]{Turned(Turned(Text())), Turned(Turned(Folded())), Turned(Turned(Turned(Text()))), Turned(Turned(Turned(Folded())))}
+	for i, a := range orders {
+		for j, b := range again {
+			if (a == b) != (i == j) {
+				t.Errorf("P3: orders %d and %d: %v", i, j, a == b)
+			}
+		}
+	}
+}
+
+// TestMapsOfNoEngine: not even what New answers with an error panics, nor a map that nobody made.
+func TestMapsOfNoEngine(t *testing.T) {
+	refused, _ := New[int, string](Ints(), 9)
+	for _, m := range []*Map[int, string]{refused, {}} {
+		if v, had, e := m.Put(1, "a"); v != "" || had || e != api.ErrEngine {
+			t.Errorf("Put = %q, %v, %d", v, had, e)
+		}
+		_, got := m.Get(1)
+		_, gone := m.Delete(1)
+		_, _, at := m.At(0)
+		_, _, low := m.Floor(1)
+		_, _, high := m.Ceiling(1)
+		if got || gone || at || low || high || m.Len() != 0 || m.Rank(1) != 0 || m.Compared() != 0 {
+			t.Error("a map of no engine has something")
+		}
+	}
+	m, _ := New[int, string](Turned(Order[int]{}), api.Tree)
+	m.Put(1, "a")
+	if v, had, e := m.Put(2, "b"); v != "a" || !had || e != api.OK {
+		t.Errorf("by an order that nobody made: Put = %q, %v, %d", v, had, e)
+	}
+}
