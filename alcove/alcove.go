@@ -40,7 +40,7 @@ func (o Order[K]) compare(a, b K) int {
 	return o.rule.Compare(a, b)
 }
 
-// row is what the engines have in common: items in a row, by place. Only Find asks how keys stand, so that comparisons are counted in one spot.
+// row is what the engines have in common: items in a row, by place. Of its methods, only Find asks how keys stand: the rest work by place, and compare nothing.
 type row[K, V any] interface {
 	Len() int
 	Find(side func(key K) int) (int, bool)
@@ -76,10 +76,13 @@ func (m *Map[K, V]) find(k K) (int, bool) {
 	if m.bare() {
 		return 0, false
 	}
-	return m.items.Find(func(key K) int {
-		m.compared++
-		return m.order.compare(k, key)
-	})
+	return m.items.Find(func(key K) int { return m.compare(k, key) })
+}
+
+// compare tells how a stands to b, as the order does, and counts it: all calls on maps compare keys by it.
+func (m *Map[K, V]) compare(a, b K) int {
+	m.compared++
+	return m.order.compare(a, b)
 }
 
 // Put lays a value by (P5).

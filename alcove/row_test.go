@@ -57,6 +57,24 @@ func (c counting) Compare(a, b int) int {
 	return cmp.Compare(a, b)
 }
 
+// walkAbout: some steps of each kind of walk.
+func walkAbout(m *Map[int, int], k int) {
+	for x := range m.Range(k, k+20) {
+		m.Delete(x + 1)
+	}
+	for x := range m.Back() {
+		if x < 570 {
+			break
+		}
+	}
+	c := m.Cursor()
+	c.Next()
+	c.Prev()
+	c.Seek(k)
+	c.Prev()
+	c.Next()
+}
+
 // TestComparedIsWhatWasCompared: neither more nor less is told than was done, at any call.
 func TestComparedIsWhatWasCompared(t *testing.T) {
 	for engine := range 2 {
@@ -81,6 +99,7 @@ func TestComparedIsWhatWasCompared(t *testing.T) {
 			}
 			m.At(k)
 			m.Len()
+			walkAbout(m, k)
 			if m.Compared() != calls {
 				t.Fatalf("P7: engine %d, step %d: Compared %d, want %d", engine, step, m.Compared(), calls)
 			}
@@ -115,6 +134,20 @@ func TestMapsOfNoEngine(t *testing.T) {
 		_, _, high := m.Ceiling(1)
 		if got || gone || at || low || high || m.Len() != 0 || m.Rank(1) != 0 || m.Compared() != 0 {
 			t.Error("a map of no engine has something")
+		}
+		for k := range m.Range(0, 9) {
+			t.Errorf("Range gives %d", k)
+		}
+		for k := range m.Back() {
+			t.Errorf("Back gives %d", k)
+		}
+		for _, c := range []*Cursor[int, string]{m.Cursor(), {}, nil} {
+			c.Seek(1)
+			_, _, on := c.Next()
+			_, _, back := c.Prev()
+			if on || back {
+				t.Error("a cursor of no map has something")
+			}
 		}
 	}
 	m, _ := New[int, string](Turned(Order[int]{}), api.Tree)
