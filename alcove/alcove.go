@@ -53,6 +53,7 @@ type row[K, V any] interface {
 // Map from keys to values.
 type Map[K, V any] struct {
 	order    Order[K]
+	engine   int // kept for the maps that are made of this one
 	items    row[K, V]
 	compared int
 }
@@ -61,9 +62,9 @@ type Map[K, V any] struct {
 func New[K, V any](o Order[K], engine int) (*Map[K, V], api.Errno) {
 	switch engine {
 	case api.Tree:
-		return &Map[K, V]{order: o, items: tree.New[K, V]()}, api.OK
+		return &Map[K, V]{order: o, engine: engine, items: tree.New[K, V]()}, api.OK
 	case api.Skip:
-		return &Map[K, V]{order: o, items: skip.New[K, V]()}, api.OK
+		return &Map[K, V]{order: o, engine: engine, items: skip.New[K, V]()}, api.OK
 	}
 	return nil, api.ErrEngine
 }

@@ -107,6 +107,94 @@ func TestComparedIsWhatWasCompared(t *testing.T) {
 	}
 }
 
+// TestSeveralCountWhatTheyCompare: a comparison counts in every map that the call is on, once; in no map that is made.
+func TestSeveralCountWhatTheyCompare(t *testing.T) {
+	for engines := range 4 {
+		calls := 0
+		o := Order[int]{rule: counting{&calls}}
+		a, _ := New[int, int](o, engines%2)
+		b, _ := New[int, int](o, engines/2)
+		for i := range 100 {
+			a.Put(3*i, i)
+			b.Put(5*i, i)
+		}
+		counted := func(name string, maps []*Map[int, int], call func()) {
+			t.Helper()
+			a.compared, b.compared, calls = 0, 0, 0
+			call()
+			for i, m := range []*Map[int, int]{a, b} {
+				want := 0
+				if slices.Contains(maps, m) {
+					want = calls
+				}
+				if m.Compared() != want || calls == 0 {
+					t.Errorf("P7: %s: map %d: Compared %d, want %d", name, i, m.Compared(), want)
+				}
+			}
+		}
+		first, both := []*Map[int, int]{a}, []*Map[int, int]{a, b}
+		left := func(x, y int) int { return x }
+		counted("Split", first, func() { a.Split(150) })
+		counted("Merge", both, func() { Merge(a, b, left) })
+		counted("Common", both, func() { Common(a, b) })
+		counted("Without", both, func() { Without(a, b) })
+		counted("Merge with itself", first, func() { Merge(a, a, left) })
+		counted("Without itself", first, func() { Without(a, a) })
+	}
+}
+
+// TestEngineOfMadeMaps: it is that of the map that was split, or of the first one.
+func TestEngineOfMadeMaps(t *testing.T) {
+	for engines := range 4 {
+		a, _ := New[int, int](Ints(), engines%2)
+		b, _ := New[int, int](Ints(), engines/2)
+		for i := range 10 {
+			a.Put(i, i)
+			b.Put(2*i, i)
+		}
+		low, high := a.Split(5)
+		none, all := a.Split(-1)
+		m, _ := Merge(a, b, func(x, y int) int { return x })
+		c, _ := Common(a, b)
+		w, _ := Without(a, b)
+		again, rest := m.Split(3)
+		for i, made := range []*Map[int, int]{low, high, none, all, m, c, w, again, rest} {
+			_, isTree := made.items.(*tree.Tree[int, int])
+			if made.engine != a.engine || isTree != (engines%2 == api.Tree) || made.order != Ints() {
+				t.Errorf("P10: map %d, of engines %d and %d: engine %d, a tree: %v", i, engines%2, engines/2, made.engine, isTree)
+			}
+		}
+	}
+}
+
+// TestSeveralOfNoEngine: nor do the calls on several maps panic, of maps that are none, or of no f.
+func TestSeveralOfNoEngine(t *testing.T) {
+	refused, _ := New[int, complex128](Ints(), 9)
+	sound, _ := New[int, complex128](Ints(), api.Skip)
+	sound.Put(1, 2i)
+	add := func(x, y complex128) complex128 { return x + y }
+	for _, none := range []*Map[int, complex128]{refused, {}} {
+		if low, high := none.Split(1); low != nil || high != nil {
+			t.Error("Split of no map gives maps")
+		}
+		if Sum(none, 0, 9) != 0 {
+			t.Error("Sum of no map is not 0")
+		}
+		for _, pair := range [][2]*Map[int, complex128]{{none, none}, {none, sound}, {sound, none}} {
+			m, e := Merge(pair[0], pair[1], add)
+			c, f := Common(pair[0], pair[1])
+			w, g := Without(pair[0], pair[1])
+			if m != nil || c != nil || w != nil || e != api.ErrEngine || f != api.ErrEngine || g != api.ErrEngine {
+				t.Errorf("of no maps: %v, %d, %v, %d, %v, %d", m, e, c, f, w, g)
+			}
+		}
+	}
+	m, e := Merge(sound, sound, nil)
+	if e != api.OK || m.Len() != 1 || Sum(m, 0, 9) != 2i {
+		t.Errorf("Merge without f: %d", e)
+	}
+}
+
 // TestOneOrder: orders are told apart by the words that made them.
 func TestOneOrder(t *testing.T) {
 	orders := []Order[string]{Text(), Folded(), Turned(Text()), Turned(Folded())}
